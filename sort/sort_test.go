@@ -573,6 +573,17 @@ func tooMany(t *testing.T) {
 		g.Rules = append(g.Rules, api.Rule{Name: "last", Body: len(g.Nodes)})
 		g.Nodes = append(g.Nodes, last)
 		nothing(t, "33 rules", g)
+		// 32 rules of 64 nodes; with one kid more of the last one there are too many.
+		g = grammarAs(t, rulesOf(32, func(int) string { return strings.Repeat(". ", 62) + "." }))
+		g.Nodes[1] = api.Node{Kind: last.Kind}
+		holds(t, g)
+		body := &g.Nodes[g.Rules[31].Body]
+		body.Kids = append(body.Kids, len(g.Nodes))
+		g.Nodes = append(g.Nodes, api.Node{Kind: api.Any})
+		if len(g.Nodes) != api.MaxNodes+1 {
+			t.Error(len(g.Nodes))
+		}
+		nothing(t, "2049 nodes", g)
 		for kids := api.MaxKids; kids <= api.MaxKids+1; kids++ {
 			wide := api.Grammar{Rules: []api.Rule{{Name: "A"}}, Nodes: []api.Node{{Kind: api.Alt}}}
 			for n := 1; n <= kids; n++ {
